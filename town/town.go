@@ -1,7 +1,8 @@
-// Package town has realms, and a state in which there is something of everything: what the tests of layers 21 and above share.
+// Package town has realms, a state in which there is something of everything, and states in which there is as much as may be: what the tests of layers 21 and above share.
 package town
 
 import (
+	"slices"
 	"strings"
 
 	"rialto/api"
@@ -97,6 +98,58 @@ func Full() api.Realm {
 		})
 	}
 	return r
+}
+
+// Packed is a state of a realm that may be in which as much is there as may be, with names and texts as long as they may be: all slots are taken, but those of exits that would have nowhere to begin, of trades of one account, and of orders that no entry, or no coin, would be there for.
+func Packed(r api.Realm) api.State {
+	accounts := len(r.Accounts)
+	s := api.State{Round: uint64(r.Audits), Orders: make([]api.Order, r.Orders)}
+	for place, q := range r.Quotas {
+		s.Shelves = append(s.Shelves, packed(place, q, accounts))
+	}
+	for _, g := range r.Guilds {
+		row := slices.Repeat([]int{1}, accounts)
+		row[g.Founder] = 2
+		s.Ranks = append(s.Ranks, row)
+	}
+	for i := range min(r.Orders, r.Audits, int(min(r.Quotas[0].Cap, api.MaxOrders))) {
+		s.Orders[i] = api.Order{Used: true, Label: i % len(r.Labels), Who: i % accounts, Side: api.Sell, Base: 0, Quote: 1, Price: 1, Left: 1, Reserve: 1, Seq: i}
+		s.Shelves[0].Minted[0]++
+	}
+	for i := range r.Audits {
+		line := i % len(r.Lines)
+		s.Audit = append(s.Audit, api.Entry{Round: uint64(i), Line: line, Label: r.Lines[line], Who: i % accounts, Side: api.Sell, Base: 0, Quote: 1, Qty: 1, Price: 1})
+	}
+	for i := range r.Lines {
+		s.Sessions = append(s.Sessions, i%accounts)
+	}
+	return s
+}
+
+// packed is a shelf of a packed state.
+func packed(place int, q api.Quota, accounts int) api.Shelf {
+	name, text := strings.Repeat("n", api.MaxName), strings.Repeat("t", api.MaxText)
+	x := api.Shelf{
+		Rooms:  slices.Repeat([]api.Room{{Used: true, Name: name}}, q.Rooms),
+		Exits:  make([]api.Exit, q.Exits),
+		Items:  slices.Repeat([]api.Item{{Used: true, Name: name, Kind: api.InHand, Who: accounts - 1}}, q.Items),
+		Mails:  slices.Repeat([]api.Mail{{Used: true, To: accounts - 1, Text: text}}, q.Mails),
+		Trades: make([]api.Trade, q.Trades),
+		Purses: make([][api.Coins]uint64, accounts),
+		Places: make([]api.Ref, accounts),
+	}
+	rooms, from := q.Rooms, place
+	if rooms == 0 {
+		rooms, from = 1, 0 // the plaza
+	}
+	for i := range min(q.Exits, rooms*api.Dirs) {
+		x.Exits[i] = api.Exit{Used: true, From: api.Ref{Label: from, Slot: i / api.Dirs}, Dir: i % api.Dirs}
+	}
+	if accounts > 1 {
+		offer := api.Trade{Used: true, A: 1, Give: api.Part{Item: -1}, Want: api.Part{Amount: api.MaxTotal, Item: -1}}
+		x.Trades = slices.Repeat([]api.Trade{offer}, q.Trades)
+	}
+	return x
 }
 
 // Wrong is realms that may not be; but for the first one, in each something of the town is another one.
